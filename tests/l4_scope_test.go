@@ -1035,42 +1035,47 @@ func behind[T any](l []T, more ...T) ([]T, []T) {
 	return room[:len(l)], room
 }
 
-// TestWhatLiesBehindScopes lays each list of a scope into memory that goes on behind.
-func TestWhatLiesBehindScopes(t *testing.T) {
-	s := fullScope()
+// laidApart tells a scope the lists of which lie in memory that goes on behind them, and a function
+// that tells whether that memory is as it was.
+func laidApart(s impl.Scope) (impl.Scope, func() bool) {
 	var kept []func() bool
 	keep := func(room, before any) {
 		kept = append(kept, func() bool { return reflect.DeepEqual(room, before) })
 	}
+	s = copyOfScope(s)
 	for i := range s.Types {
-		fields, room := behind(s.Types[i].Fields, field("far", 9, 99))
+		fields, room := behind(s.Types[i].Fields, field("far", 1, 0))
 		s.Types[i].Fields = fields
 		keep(room, slices.Clone(room))
 	}
 	for i := range s.Objects {
-		params, room := behind(s.Objects[i].Params, param("far", true, 99))
+		params, room := behind(s.Objects[i].Params, param("far", true, 0))
 		s.Objects[i].Params = params
 		keep(room, slices.Clone(room))
 	}
-	imports, importRoom := behind(s.Imports, "A")
-	types, typeRoom := behind(s.Types, impl.Type{Kind: 77})
+	imports, importRoom := behind(s.Imports, "Far")
+	types, typeRoom := behind(s.Types, calledSo(recordOf(-1), "B", "R"))
 	objects, objectRoom := behind(s.Objects, constOf("far", 1, 1))
-	uses, useRoom := behind(s.Uses, impl.Use{Mod: "far"})
+	uses, useRoom := behind(s.Uses, impl.Use{Mod: "B", Name: "far"})
 	keep(importRoom, slices.Clone(importRoom))
 	keep(typeRoom, slices.Clone(typeRoom))
 	keep(objectRoom, slices.Clone(objectRoom))
 	keep(useRoom, slices.Clone(useRoom))
-	s = impl.Scope{Name: "A", Imports: imports, Types: types, Objects: objects, Uses: uses}
+	return impl.Scope{Name: s.Name, Imports: imports, Types: types, Objects: objects, Uses: uses}, func() bool {
+		return !slices.ContainsFunc(kept, func(same func() bool) bool { return !same() })
+	}
+}
+
+func TestWhatLiesBehindScopes(t *testing.T) {
+	s, same := laidApart(fullScope())
 	wantPromised(t, s)
 	wantExport(t, s, exportOfFull())
 	wantObject(t, s, "far", 0, false)
 	wantAlike(t, s, fullScope(), true, true)
 	wantSameScope(t, s, fullScope(), true)
 	callAllOf(s, s)
-	for i, ok := range kept {
-		if !ok() {
-			t.Errorf("what lies behind list %d is written into", i)
-		}
+	if !same() {
+		t.Error("what lies behind the lists of a scope is written into")
 	}
 }
 
